@@ -1,0 +1,128 @@
+"""What the interface says of all functions, held against those that are there."""
+
+import ast
+import contextlib
+import inspect
+import io
+import sys
+import unittest
+
+from turnstree import fractions
+from turnstree.fractions import from_runs, turns
+
+CALLS = (
+    (turns, (1, 1)),
+    (turns, (5, 2)),
+    (turns, (2, 5)),
+    (turns, (5000, 1)),
+    (turns, (1, 5000)),
+    (turns, (4181, 2584)),
+    (from_runs, ([],)),
+    (from_runs, ([0],)),
+    (from_runs, ([0, 5000],)),
+    (from_runs, ([3, 7, 15],)),
+    (from_runs, ([1] * 44,)),
+    (from_runs, ([1] * 64,)),
+)
+
+
+class Locked(list):
+    """A list that refuses to be changed, for a while either."""
+
+    def refuse(self, *args, **kwargs):
+        raise RuntimeError("what was handed in is changed")
+
+    append = clear = extend = insert = pop = remove = reverse = sort = refuse
+    __setitem__ = __delitem__ = __iadd__ = __imul__ = refuse
+
+
+def deepest_call(function, args):
+    """How many Python calls stand within one another while the function runs."""
+    depth = 0
+    deepest = 0
+
+    def watch(frame, event, arg):
+        nonlocal depth, deepest
+        if event == "call":
+            depth += 1
+            deepest = max(deepest, depth)
+        elif event == "return":
+            depth -= 1
+
+    sys.setprofile(watch)
+    try:
+        function(*args)
+    finally:
+        sys.setprofile(None)
+    return deepest
+
+
+class NamesAndArguments(unittest.TestCase):
+    def test_parameters(self):
+        self.assertEqual(list(inspect.signature(turns).parameters), ["a", "b"])
+        self.assertEqual(list(inspect.signature(from_runs).parameters), ["runs"])
+
+    def test_arguments_by_name(self):
+        self.assertEqual(turns(a=5, b=2), [2, 2, 1])
+        self.assertEqual(from_runs(runs=[2, 1]), [0, 5, 2])
+
+
+class WhatIsGivenBack(unittest.TestCase):
+    def test_a_list_of_whole_numbers(self):
+        for function, args in CALLS:
+            answer = function(*args)
+            self.assertIs(type(answer), list)
+            for number in answer:
+                self.assertIs(type(number), int, (function, args))
+
+    def test_a_second_call_answers_the_same(self):
+        for function, args in CALLS:
+            first = function(*args)
+            kept = list(first)
+            first.append(7)
+            first[0] = 9
+            self.assertEqual(function(*args), kept, (function, args))
+
+    def test_the_answer_does_not_hang_on_calls_between(self):
+        alone = [function(*args) for function, args in CALLS]
+        backward = [function(*args) for function, args in reversed(CALLS)]
+        self.assertEqual(alone, backward[::-1])
+
+
+class WhatIsHandedIn(unittest.TestCase):
+    def test_the_list_is_the_same_afterwards(self):
+        for runs in ([], [0], [2, 1], [0, 3, 7, 15], [1] * 64):
+            kept = list(runs)
+            answer = from_runs(runs)
+            self.assertEqual(runs, kept)
+            self.assertIsNot(answer, runs)
+
+    def test_the_list_is_not_changed_for_a_while(self):
+        self.assertEqual(from_runs(Locked([])), [0, 1, 1])
+        self.assertEqual(from_runs(Locked([3, 7, 15])), [0, 355, 113])
+        self.assertEqual(from_runs(Locked([0, 2, 1])), [0, 2, 5])
+
+
+class WhatIsNotDone(unittest.TestCase):
+    def test_nothing_is_printed(self):
+        out = io.StringIO()
+        err = io.StringIO()
+        with contextlib.redirect_stdout(out), contextlib.redirect_stderr(err):
+            for function, args in CALLS:
+                function(*args)
+        self.assertEqual(out.getvalue() + err.getvalue(), "")
+
+    def test_nothing_is_imported_or_read(self):
+        tree = ast.parse(inspect.getsource(fractions))
+        for node in ast.walk(tree):
+            self.assertNotIsInstance(node, (ast.Import, ast.ImportFrom, ast.Global))
+            if isinstance(node, ast.Name):
+                self.assertNotIn(node.id, ("open", "input", "print", "exec", "eval"))
+
+    def test_no_calls_as_deep_as_the_input_is_long(self):
+        for function, args in CALLS:
+            self.assertLessEqual(deepest_call(function, args), 10, (function, args))
+
+
+if __name__ == "__main__":
+    unittest.main()

@@ -1,0 +1,51 @@
+"""The tree's own rule, one turn at a time, against which the program is checked."""
+
+RIGHT = "R"
+LEFT = "L"
+
+
+def turns_of(a, b):
+    """The turns of a/b, each of them by itself."""
+    found = []
+    while (a, b) != (1, 1):
+        if a > b:
+            found.append(RIGHT)
+            a = a - b
+        else:
+            found.append(LEFT)
+            b = b - a
+    return found
+
+
+def runs_of(found):
+    """The turns told as runs, the first of them to the right."""
+    runs = []
+    side = RIGHT
+    k = 0
+    while k < len(found):
+        run = 0
+        while k < len(found) and found[k] == side:
+            run += 1
+            k += 1
+        runs.append(run)
+        side = LEFT if side == RIGHT else RIGHT
+    return runs
+
+
+def fraction_at(found):
+    """The fraction that the turns lead to."""
+    c, d = 1, 1
+    for turn in reversed(found):
+        if turn == RIGHT:
+            c, d = c + d, d
+        else:
+            c, d = c, c + d
+    return c, d
+
+
+def turns_in(runs):
+    """The runs told as turns, each of them by itself."""
+    found = []
+    for k, run in enumerate(runs):
+        found.extend([RIGHT if k % 2 == 0 else LEFT] * run)
+    return found

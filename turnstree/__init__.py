@@ -1,0 +1,1 @@
+"""Fractions in a tree."""
