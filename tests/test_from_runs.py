@@ -3,7 +3,7 @@
 import unittest
 from itertools import product
 
-from tree_rule import fraction_at, turns_in
+from plain_rules import fraction_at, turns_in
 from turnstree.fractions import from_runs
 
 LIMIT = 2 ** 31

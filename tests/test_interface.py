@@ -8,7 +8,14 @@ import sys
 import unittest
 
 from turnstree import fractions
-from turnstree.fractions import from_runs, turns
+from turnstree.fractions import between, from_runs, next_greater, turns
+
+PARAMETERS = (
+    (turns, ["a", "b"]),
+    (from_runs, ["runs"]),
+    (between, ["a", "b", "c", "d"]),
+    (next_greater, ["n", "a", "b"]),
+)
 
 CALLS = (
     (turns, (1, 1)),
@@ -23,6 +30,14 @@ CALLS = (
     (from_runs, ([3, 7, 15],)),
     (from_runs, ([1] * 44,)),
     (from_runs, ([1] * 64,)),
+    (between, (0, 1, 1, 5000)),
+    (between, (2, 4, 4, 6)),
+    (between, (4998, 4999, 4999, 5000)),
+    (between, (1, 2, 5, 1)),
+    (next_greater, (1, 0, 1)),
+    (next_greater, (5, 1, 3)),
+    (next_greater, (5000, 1, 2)),
+    (next_greater, (5000, 1, 1)),
 )
 
 
@@ -59,12 +74,14 @@ def deepest_call(function, args):
 
 class NamesAndArguments(unittest.TestCase):
     def test_parameters(self):
-        self.assertEqual(list(inspect.signature(turns).parameters), ["a", "b"])
-        self.assertEqual(list(inspect.signature(from_runs).parameters), ["runs"])
+        for function, names in PARAMETERS:
+            self.assertEqual(list(inspect.signature(function).parameters), names, function)
 
     def test_arguments_by_name(self):
         self.assertEqual(turns(a=5, b=2), [2, 2, 1])
         self.assertEqual(from_runs(runs=[2, 1]), [0, 5, 2])
+        self.assertEqual(between(a=1, b=3, c=1, d=2), [0, 2, 5])
+        self.assertEqual(next_greater(n=5, a=1, b=3), [0, 2, 5])
 
 
 class WhatIsGivenBack(unittest.TestCase):
@@ -74,6 +91,12 @@ class WhatIsGivenBack(unittest.TestCase):
             self.assertIs(type(answer), list)
             for number in answer:
                 self.assertIs(type(number), int, (function, args))
+
+    def test_a_refusal_stands_alone(self):
+        for function, args in CALLS:
+            answer = function(*args)
+            if answer[0] < 0:
+                self.assertEqual(answer, [-1], (function, args))
 
     def test_a_second_call_answers_the_same(self):
         for function, args in CALLS:

@@ -3,7 +3,7 @@
 import unittest
 from math import gcd
 
-from tree_rule import runs_of, turns_of
+from plain_rules import runs_of, turns_of
 from turnstree.fractions import turns
 
 

@@ -1,4 +1,6 @@
-"""The tree's own rule, one turn at a time, against which the program is checked."""
+"""The document's own rules, done as plainly as they stand, against which the program is checked."""
+
+from fractions import Fraction
 
 RIGHT = "R"
 LEFT = "L"
@@ -49,3 +51,9 @@ def turns_in(runs):
     for k, run in enumerate(runs):
         found.extend([RIGHT if k % 2 == 0 else LEFT] * run)
     return found
+
+
+def size_in_order(n):
+    """All fractions of the size n, the least first, each as its two numbers."""
+    found = {Fraction(a, b) for b in range(1, n + 1) for a in range(0, b + 1)}
+    return [(fraction.numerator, fraction.denominator) for fraction in sorted(found)]
