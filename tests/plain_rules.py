@@ -57,3 +57,12 @@ def size_in_order(n):
     """All fractions of the size n, the least first, each as its two numbers."""
     found = {Fraction(a, b) for b in range(1, n + 1) for a in range(0, b + 1)}
     return [(fraction.numerator, fraction.denominator) for fraction in sorted(found)]
+
+
+def stern_numbers(most):
+    """Stern's numbers s(0) to s(most), one after another by their rule."""
+    numbers = [0, 1]
+    while len(numbers) <= most:
+        n, odd = divmod(len(numbers), 2)
+        numbers.append(numbers[n] + numbers[n + 1] if odd else numbers[n])
+    return numbers

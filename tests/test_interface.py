@@ -8,13 +8,15 @@ import sys
 import unittest
 
 from turnstree import fractions
-from turnstree.fractions import between, from_runs, next_greater, turns
+from turnstree.fractions import between, from_runs, next_greater, rank, stern, turns
 
 PARAMETERS = (
     (turns, ["a", "b"]),
     (from_runs, ["runs"]),
     (between, ["a", "b", "c", "d"]),
     (next_greater, ["n", "a", "b"]),
+    (rank, ["n", "a", "b"]),
+    (stern, ["n"]),
 )
 
 CALLS = (
@@ -38,6 +40,14 @@ CALLS = (
     (next_greater, (5, 1, 3)),
     (next_greater, (5000, 1, 2)),
     (next_greater, (5000, 1, 1)),
+    (rank, (1, 0, 1)),
+    (rank, (5, 2, 4)),
+    (rank, (200, 2500, 5000)),
+    (rank, (200, 5000, 5000)),
+    (stern, (1,)),
+    (stern, (11,)),
+    (stern, (2 ** 30,)),
+    (stern, (2 ** 31 - 1,)),
 )
 
 
@@ -82,6 +92,8 @@ class NamesAndArguments(unittest.TestCase):
         self.assertEqual(from_runs(runs=[2, 1]), [0, 5, 2])
         self.assertEqual(between(a=1, b=3, c=1, d=2), [0, 2, 5])
         self.assertEqual(next_greater(n=5, a=1, b=3), [0, 2, 5])
+        self.assertEqual(rank(n=5, a=1, b=3), [4])
+        self.assertEqual(stern(n=11), [0, 5, 2])
 
 
 class WhatIsGivenBack(unittest.TestCase):

@@ -1,4 +1,5 @@
-"""Fractions as turns in one tree, and back; the simplest between two, and the next of a size."""
+"""Fractions as turns in one tree, and back; the simplest between two; the next
+of a size, and how many up to one; Stern's numbers."""
 
 
 def turns(a, b):
@@ -63,3 +64,32 @@ def next_greater(n, a, b):
             best_upper = upper_number
             best_lower = lower_number
     return [0, best_upper, best_lower]
+
+
+def rank(n, a, b):
+    """Answer how many fractions of the size n are no greater than a/b."""
+    # For each lower number, how many upper numbers above 0 keep within a/b:
+    # at first those with a common part too.
+    counts = [a * lower_number // b for lower_number in range(n + 1)]
+    for lower_number in range(1, n + 1):
+        # A fraction without a common part stands again, with one, over each
+        # multiple of its lower number. The smaller ones come first, so what
+        # is taken away is itself already right.
+        for multiple in range(2 * lower_number, n + 1, lower_number):
+            counts[multiple] = counts[multiple] - counts[lower_number]
+    # 0/1 is counted by none of them.
+    return [1 + sum(counts)]
+
+
+def stern(n):
+    """Answer 0, then s(n) and s(n + 1)."""
+    # From s(m) and s(m + 1) the rule tells those of 2m and of 2m + 1: so m
+    # grows from 0 to n by n's binary digits, the highest first.
+    here = 0
+    follower = 1
+    for k in range(n.bit_length() - 1, -1, -1):
+        if (n >> k) % 2 == 0:
+            follower = here + follower
+        else:
+            here = here + follower
+    return [0, here, follower]
