@@ -66,3 +66,15 @@ def stern_numbers(most):
         n, odd = divmod(len(numbers), 2)
         numbers.append(numbers[n] + numbers[n + 1] if odd else numbers[n])
     return numbers
+
+
+def stern_number(n):
+    """s(n) alone, for an n too great to go through all before it."""
+    known = {0: 0, 1: 1}
+
+    def s(m):
+        if m not in known:
+            known[m] = s(m // 2) + s(m // 2 + 1) if m % 2 else s(m // 2)
+        return known[m]
+
+    return s(n)

@@ -8,7 +8,7 @@ import sys
 import unittest
 
 from turnstree import fractions
-from turnstree.fractions import between, from_runs, next_greater, rank, stern, turns
+from turnstree.fractions import between, from_runs, next_greater, place, rank, stern, turns, way
 
 PARAMETERS = (
     (turns, ["a", "b"]),
@@ -17,6 +17,8 @@ PARAMETERS = (
     (next_greater, ["n", "a", "b"]),
     (rank, ["n", "a", "b"]),
     (stern, ["n"]),
+    (place, ["a", "b"]),
+    (way, ["changes"]),
 )
 
 CALLS = (
@@ -48,6 +50,16 @@ CALLS = (
     (stern, (11,)),
     (stern, (2 ** 30,)),
     (stern, (2 ** 31 - 1,)),
+    (place, (1, 1)),
+    (place, (31, 1)),
+    (place, (1, 32)),
+    (place, (6, 4)),
+    (place, (1, 2 ** 31 - 1)),
+    (way, ([],)),
+    (way, ([2, 1, 0],)),
+    (way, ([0, 1] * 11,)),
+    (way, ([0, 1] * 32,)),
+    (way, ([2] * 64,)),
 )
 
 
@@ -94,6 +106,8 @@ class NamesAndArguments(unittest.TestCase):
         self.assertEqual(next_greater(n=5, a=1, b=3), [0, 2, 5])
         self.assertEqual(rank(n=5, a=1, b=3), [4])
         self.assertEqual(stern(n=11), [0, 5, 2])
+        self.assertEqual(place(a=5, b=2), [11])
+        self.assertEqual(way(changes=[2, 1]), [0, 1, 5, 2])
 
 
 class WhatIsGivenBack(unittest.TestCase):
@@ -125,17 +139,25 @@ class WhatIsGivenBack(unittest.TestCase):
 
 
 class WhatIsHandedIn(unittest.TestCase):
+    def check_the_list_stays(self, function, handed_in):
+        kept = list(handed_in)
+        answer = function(handed_in)
+        self.assertEqual(handed_in, kept)
+        self.assertIsNot(answer, handed_in)
+
     def test_the_list_is_the_same_afterwards(self):
         for runs in ([], [0], [2, 1], [0, 3, 7, 15], [1] * 64):
-            kept = list(runs)
-            answer = from_runs(runs)
-            self.assertEqual(runs, kept)
-            self.assertIsNot(answer, runs)
+            self.check_the_list_stays(from_runs, runs)
+        for changes in ([], [0], [2, 1, 0], [0, 1] * 32, [2] * 64):
+            self.check_the_list_stays(way, changes)
 
     def test_the_list_is_not_changed_for_a_while(self):
         self.assertEqual(from_runs(Locked([])), [0, 1, 1])
         self.assertEqual(from_runs(Locked([3, 7, 15])), [0, 355, 113])
         self.assertEqual(from_runs(Locked([0, 2, 1])), [0, 2, 5])
+        self.assertEqual(way(Locked([])), [0, 1, 1, 1])
+        self.assertEqual(way(Locked([2, 1, 0])), [0, 29, 5, 2])
+        self.assertEqual(way(Locked([0, 1] * 32)), [-1])
 
 
 class WhatIsNotDone(unittest.TestCase):

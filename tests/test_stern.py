@@ -2,22 +2,10 @@
 
 import unittest
 
-from plain_rules import stern_numbers
+from plain_rules import stern_number, stern_numbers
 from turnstree.fractions import stern
 
 GREATEST = 2 ** 31 - 1
-
-
-def by_the_rule(n):
-    """s(n) by the rule as it stands, each number once."""
-    known = {0: 0, 1: 1}
-
-    def s(m):
-        if m not in known:
-            known[m] = s(m // 2) + s(m // 2 + 1) if m % 2 else s(m // 2)
-        return known[m]
-
-    return s(n)
 
 
 class OrdinaryNumbers(unittest.TestCase):
@@ -62,7 +50,7 @@ class AgainstTheRule(unittest.TestCase):
 
     def test_numbers_all_over(self):
         for n in list(range(1, GREATEST, 7654321)) + list(range(GREATEST - 50, GREATEST + 1)):
-            self.assertEqual(stern(n), [0, by_the_rule(n), by_the_rule(n + 1)], n)
+            self.assertEqual(stern(n), [0, stern_number(n), stern_number(n + 1)], n)
 
     def test_what_follows_begins_with_what_came_last(self):
         for start in (1, 999, 2 ** 16 - 50, 2 ** 30 - 50, GREATEST - 100):

@@ -1,5 +1,9 @@
 """Fractions as turns in one tree, and back; the simplest between two; the next
-of a size, and how many up to one; Stern's numbers."""
+of a size, and how many up to one; Stern's numbers; threes of numbers whose
+squares come to three times their product."""
+
+# 2^31: what place finds, and each number on a way, has to stay below it.
+LIMIT = 2147483648
 
 
 def turns(a, b):
@@ -93,3 +97,40 @@ def stern(n):
         else:
             here = here + follower
     return [0, here, follower]
+
+
+def place(a, b):
+    """Answer the n below 2^31 with s(n) = a and s(n + 1) = b; -1 if there's none."""
+    first = a
+    second = b
+    n = 0
+    # Each step goes from n to n // 2 and finds one binary digit, the lowest
+    # first; what is left at 1 and 1 is the highest digit.
+    digit = 1
+    while first != second:
+        if first > second:
+            n = n + digit
+            first = first - second
+        else:
+            second = second - first
+        digit = 2 * digit
+        if digit >= LIMIT:
+            return [-1]
+    if first != 1:
+        return [-1]
+    return [n + digit]
+
+
+def changed(numbers, k):
+    """What changing puts in the place of the k-th of three numbers."""
+    return 3 * numbers[(k + 1) % 3] * numbers[(k + 2) % 3] - numbers[k]
+
+
+def way(changes):
+    """Answer 0, then what the changes make of 1, 1, 1; -1 if a number comes to 2^31 on the way."""
+    numbers = [1, 1, 1]
+    for k in changes:
+        numbers[k] = changed(numbers, k)
+        if numbers[k] >= LIMIT:
+            return [-1]
+    return [0] + numbers
