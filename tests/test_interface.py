@@ -1,4 +1,4 @@
-"""What the interface says of all functions, held against those that are there."""
+"""What the interface says of all functions, held against each of the nine."""
 
 import ast
 import contextlib
@@ -8,18 +8,19 @@ import sys
 import unittest
 
 from turnstree import fractions
-from turnstree.fractions import between, from_runs, next_greater, place, rank, stern, turns, way
+from turnstree.fractions import between, down, from_runs, next_greater, place, rank, stern, turns, way
 
-PARAMETERS = (
-    (turns, ["a", "b"]),
-    (from_runs, ["runs"]),
-    (between, ["a", "b", "c", "d"]),
-    (next_greater, ["n", "a", "b"]),
-    (rank, ["n", "a", "b"]),
-    (stern, ["n"]),
-    (place, ["a", "b"]),
-    (way, ["changes"]),
-)
+PARAMETERS = {
+    "turns": ["a", "b"],
+    "from_runs": ["runs"],
+    "between": ["a", "b", "c", "d"],
+    "next_greater": ["n", "a", "b"],
+    "rank": ["n", "a", "b"],
+    "stern": ["n"],
+    "place": ["a", "b"],
+    "way": ["changes"],
+    "down": ["x", "y", "z"],
+}
 
 CALLS = (
     (turns, (1, 1)),
@@ -60,6 +61,11 @@ CALLS = (
     (way, ([0, 1] * 11,)),
     (way, ([0, 1] * 32,)),
     (way, ([2] * 64,)),
+    (down, (1, 1, 1)),
+    (down, (29, 2, 5)),
+    (down, (6466, 1873012681, 96557)),
+    (down, (2, 2, 2)),
+    (down, (2 ** 31 - 1, 2 ** 31 - 1, 2 ** 31 - 1)),
 )
 
 
@@ -96,8 +102,12 @@ def deepest_call(function, args):
 
 class NamesAndArguments(unittest.TestCase):
     def test_parameters(self):
-        for function, names in PARAMETERS:
-            self.assertEqual(list(inspect.signature(function).parameters), names, function)
+        for name, parameters in PARAMETERS.items():
+            function = getattr(fractions, name)
+            self.assertEqual(list(inspect.signature(function).parameters), parameters, name)
+
+    def test_every_function_is_among_the_calls(self):
+        self.assertEqual({function.__name__ for function, args in CALLS}, set(PARAMETERS))
 
     def test_arguments_by_name(self):
         self.assertEqual(turns(a=5, b=2), [2, 2, 1])
@@ -108,6 +118,7 @@ class NamesAndArguments(unittest.TestCase):
         self.assertEqual(stern(n=11), [0, 5, 2])
         self.assertEqual(place(a=5, b=2), [11])
         self.assertEqual(way(changes=[2, 1]), [0, 1, 5, 2])
+        self.assertEqual(down(x=29, y=2, z=5), [3])
 
 
 class WhatIsGivenBack(unittest.TestCase):
@@ -136,6 +147,10 @@ class WhatIsGivenBack(unittest.TestCase):
         alone = [function(*args) for function, args in CALLS]
         backward = [function(*args) for function, args in reversed(CALLS)]
         self.assertEqual(alone, backward[::-1])
+        for (function, args), expected in zip(CALLS, alone):
+            for other, other_args in CALLS:
+                other(*other_args)
+                self.assertEqual(function(*args), expected, (function, args, other, other_args))
 
 
 class WhatIsHandedIn(unittest.TestCase):

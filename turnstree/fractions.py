@@ -134,3 +134,18 @@ def way(changes):
         if numbers[k] >= LIMIT:
             return [-1]
     return [0] + numbers
+
+
+def down(x, y, z):
+    """Answer how often the greatest is changed till it's 1, 1, 1; -1 if they're no three."""
+    if x * x + y * y + z * z != 3 * x * y * z:
+        return [-1]
+    numbers = [x, y, z]
+    times = 0
+    # Changing makes another three of a three, and its greatest number less
+    # wherever that is above 1: so this ends.
+    while numbers != [1, 1, 1]:
+        greatest = numbers.index(max(numbers))
+        numbers[greatest] = changed(numbers, greatest)
+        times = times + 1
+    return [times]
